@@ -53,7 +53,8 @@ func (d *Disk) Write(at int, b []byte) api.Errno {
 		goto refused
 	}
 	no = api.ErrFull
-	if !within(at, len(b), d.writable) {
+	// No bytes are none of those that may not be written, wherever on the disk their place is.
+	if len(b) > 0 && !within(at, len(b), d.writable) {
 		goto refused
 	}
 	no = api.ErrStop

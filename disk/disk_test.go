@@ -173,19 +173,38 @@ func TestLimit(t *testing.T) { // P1.1
 	is(t, "a Limit that is refused changes nothing", d.Write(3, []byte{6}), api.OK)
 	is(t, "Limit", d.Limit(2), api.OK)
 	is(t, "up to it", d.Write(0, []byte{1, 2}), api.OK)
-	is(t, "none at it", d.Write(2, nil), api.OK)
-	for _, x := range []struct{ at, n int }{{1, 2}, {2, 1}, {0, 3}, {3, 1}, {3, 0}} {
+	for _, x := range []struct{ at, n int }{{1, 2}, {2, 1}, {0, 3}, {3, 1}} {
 		is(t, "beyond it", d.Write(x.at, make([]byte, x.n)), api.ErrFull)
 	}
 	is(t, "stands", stands(t, d), "\x01\x02\x00\x06")
-	is(t, "Waits", d.Waits(), 3)
-	is(t, "Steps", d.Steps(), 3)
+	is(t, "Waits", d.Waits(), 2)
+	is(t, "Steps", d.Steps(), 2)
 	is(t, "Sync", d.Sync(), api.OK)
 	is(t, "Limit", d.Limit(0), api.OK)
 	is(t, "no byte", d.Write(0, []byte{1}), api.ErrFull)
 	is(t, "none", d.Write(0, nil), api.OK)
 	is(t, "Limit", d.Limit(4), api.OK)
 	is(t, "all again", d.Write(0, []byte{4, 4, 4, 4}), api.OK)
+}
+
+// TestNoBytesAreNotBeyondTheLimit: none of the bytes that may not be written is written by a write of none.
+func TestNoBytesAreNotBeyondTheLimit(t *testing.T) { // P1.1
+	for _, x := range []struct{ size, limit, at int }{{1, 0, 0}, {1, 0, 1}, {4, 2, 2}, {4, 2, 3}, {4, 2, 4}, {1 << 18, 7, 8}, {1 << 18, 0, 1 << 18}} {
+		for _, none := range [][]byte{nil, {}} {
+			d := must(t, x.size)
+			is(t, "Limit", d.Limit(x.limit), api.OK)
+			is(t, "none, behind the end", d.Write(x.size+1, none), api.ErrRange)
+			is(t, "none, ahead of 0", d.Write(-1, none), api.ErrRange)
+			is(t, "Waits", d.Waits(), 0)
+			is(t, "none, at or behind the bound", d.Write(x.at, none), api.OK)
+			is(t, "Waits", d.Waits(), 1)
+			is(t, "Steps", d.Steps(), 1)
+			is(t, "a crash that keeps it", crashed(t, d, 1, 0), string(make([]byte, x.size)))
+			is(t, "a crash that tears it", crashed(t, d, 0, 1), string(make([]byte, x.size)))
+			is(t, "Arm", d.Arm(0), api.OK)
+			is(t, "ErrStop", d.Write(x.at, none), api.ErrStop)
+		}
+	}
 }
 
 func TestOrderOfErrors(t *testing.T) { // P1.1, P1.2
@@ -491,7 +510,7 @@ func (m *told) write(at int, b []byte) api.Errno {
 	switch end := at + len(b); {
 	case at < 0 || end > m.size:
 		return api.ErrRange
-	case end > m.limit:
+	case len(b) > 0 && end > m.limit:
 		return api.ErrFull
 	case !m.step():
 		return api.ErrStop
